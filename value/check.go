@@ -5,47 +5,24 @@ import (
 	"unicode/utf8"
 
 	"penstock/api"
+	"penstock/fail"
 )
 
 // Check tells why v is not right.
 func Check(v api.Value) api.Errno {
-	return caught(func() { checkValue(v, 0) })
+	return fail.Caught(func() { checkValue(v, 0) })
 }
 
 // CheckPairs tells why l is not right.
 func CheckPairs(l []api.Pair) api.Errno {
-	return caught(func() { checkPairs(l, 0) })
-}
-
-// caught does what is handed in, and is the error's number with which that panicked.
-func caught(do func()) (why api.Errno) {
-	defer func() {
-		x := recover()
-		if x == nil {
-			return
-		}
-		number, is := x.(api.Errno)
-		if !is {
-			panic(x) // a fault of the program, not of what it was given
-		}
-		why = number
-	}()
-	do()
-	return api.OK
-}
-
-// hold panics with the error, unless that which must hold does.
-func hold(is bool, why api.Errno) {
-	if !is {
-		panic(why)
-	}
+	return fail.Caught(func() { checkPairs(l, 0) })
 }
 
 // checkValue is handed how many lists and maps are around v.
 func checkValue(v api.Value, around int) {
-	hold(isBare(v), api.ErrType)
+	fail.Unless(isBare(v), api.ErrType)
 	checkLong(v.S)
-	hold(v.Kind != api.KindText || utf8.ValidString(v.S), api.ErrUtf)
+	fail.Unless(v.Kind != api.KindText || utf8.ValidString(v.S), api.ErrUtf)
 	checkMany(len(v.List))
 	checkMany(len(v.Pairs))
 	if v.Kind == api.KindList || v.Kind == api.KindMap {
@@ -84,7 +61,7 @@ func checkPair(p api.Pair, around int) {
 
 func checkKey(key string) {
 	checkLong(key)
-	hold(utf8.ValidString(key), api.ErrUtf)
+	fail.Unless(utf8.ValidString(key), api.ErrUtf)
 }
 
 // checkOnce panics, if a key is there twice.
@@ -92,18 +69,18 @@ func checkOnce(l []api.Pair) {
 	times := map[string]int{}
 	for _, p := range l {
 		times[p.Key]++
-		hold(times[p.Key] == 1, api.ErrState)
+		fail.Unless(times[p.Key] == 1, api.ErrState)
 	}
 }
 
 func checkLong(s string) {
-	hold(len(s) <= api.MaxText, api.ErrLong)
+	fail.Unless(len(s) <= api.MaxText, api.ErrLong)
 }
 
 func checkMany(n int) {
-	hold(n <= api.MaxParts, api.ErrMany)
+	fail.Unless(n <= api.MaxParts, api.ErrMany)
 }
 
 func checkDepth(around int) {
-	hold(around < api.MaxDepth, api.ErrDepth)
+	fail.Unless(around < api.MaxDepth, api.ErrDepth)
 }

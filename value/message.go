@@ -4,6 +4,7 @@ import (
 	"math"
 
 	"penstock/api"
+	"penstock/fail"
 	"penstock/wire"
 )
 
@@ -17,7 +18,7 @@ const (
 // Write is v's message.
 func Write(v api.Value) (string, api.Errno) {
 	s := ""
-	why := caught(func() {
+	why := fail.Caught(func() {
 		checkValue(v, 0)
 		s = written(v)
 	})
@@ -27,14 +28,14 @@ func Write(v api.Value) (string, api.Errno) {
 // Read is the value of which the message s says.
 func Read(s string) (api.Value, api.Errno) {
 	v := api.Value{}
-	why := caught(func() { v = read(s, 0) })
+	why := fail.Caught(func() { v = read(s, 0) })
 	return v, why
 }
 
 // WritePair is p's message.
 func WritePair(p api.Pair) (string, api.Errno) {
 	s := ""
-	why := caught(func() {
+	why := fail.Caught(func() {
 		checkPair(p, 0)
 		s = writtenPair(p)
 	})
@@ -44,7 +45,7 @@ func WritePair(p api.Pair) (string, api.Errno) {
 // ReadPair is the pair of which the message s says.
 func ReadPair(s string) (api.Pair, api.Errno) {
 	p := api.Pair{}
-	why := caught(func() { p = readPair(s, 0) })
+	why := fail.Caught(func() { p = readPair(s, 0) })
 	return p, why
 }
 
@@ -108,7 +109,7 @@ func writtenParts(n int, part func(int) string) string {
 // message panics, as soon as one of the messages is too long: so do all around it.
 func message(l ...api.Field) string {
 	s, why := wire.Write(l)
-	hold(why == api.OK, why)
+	fail.On(why)
 	return s
 }
 
@@ -187,6 +188,6 @@ func parts(s string, around int) []api.Field {
 
 func fields(s string) []api.Field {
 	l, why := wire.Read(s)
-	hold(why == api.OK, why)
+	fail.On(why)
 	return l
 }
