@@ -3,8 +3,7 @@ package server
 import (
 	"penstock/api"
 	"penstock/http"
-	"penstock/metric"
-	"penstock/trace"
+	"penstock/otlp"
 )
 
 // The statuses that are replied.
@@ -21,11 +20,8 @@ const (
 )
 
 const (
-	post        = "POST"
-	contentType = "Content-Type"
-	protobuf    = "application/x-protobuf"
-	connection  = "Connection"
-	closing     = "close"
+	connection = "Connection"
+	closing    = "close"
 )
 
 // changed is a connection that is being changed.
@@ -64,7 +60,7 @@ func (x *changed) answer(status int, body string, now uint64) {
 func (x *changed) reply(status int, body string, last bool) {
 	r := api.Response{Status: status, Body: body}
 	if status == fine {
-		r.Heads = append(r.Heads, api.Head{Name: contentType, Value: protobuf})
+		r.Heads = append(r.Heads, api.Head{Name: otlp.ContentType, Value: otlp.Protobuf})
 	}
 	if last {
 		r.Heads = append(r.Heads, api.Head{Name: connection, Value: closing})
@@ -97,40 +93,21 @@ func (x *changed) take() string {
 
 // read is the data of the request, or the status that says why it has none.
 func read(r api.Request) (api.Data, int) {
-	as := signal(r.Target)
+	as := otlp.Signal(r.Target)
 	if as == api.SignalNone {
 		return api.Data{}, notFound
 	}
-	if r.Method != post {
+	if r.Method != otlp.Post {
 		return api.Data{}, notAllowed
 	}
-	if value, _ := http.Find(r.Heads, contentType); value != protobuf {
+	if value, _ := http.Find(r.Heads, otlp.ContentType); value != otlp.Protobuf {
 		return api.Data{}, unsupported
 	}
-	d, why := readBody(r.Body, as)
+	d, why := otlp.Read(r.Body, as)
 	if why != api.OK {
 		return api.Data{}, badRequest
 	}
 	return d, fine
-}
-
-func readBody(s string, as api.Signal) (api.Data, api.Errno) {
-	if as == api.SignalMetric {
-		return metric.Read(s)
-	}
-	return trace.Read(s, as)
-}
-
-func signal(target string) api.Signal {
-	switch target {
-	case "/v1/traces":
-		return api.SignalTrace
-	case "/v1/logs":
-		return api.SignalLog
-	case "/v1/metrics":
-		return api.SignalMetric
-	}
-	return api.SignalNone
 }
 
 // isAnswer tells statuses that a request which waits may be answered.
